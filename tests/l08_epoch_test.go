@@ -269,7 +269,7 @@ func TestEpochsNew(t *testing.T) {
 		t.Errorf("MaxLooks is %d", impl.MaxLooks)
 	}
 	sizes := map[int]int{
-		math.MinInt: 1, -1000: 1, -4: 1, -1: 1, 0: 1, 1: 1, 2: 2, 3: 3, 4: 4, 5: 4, 6: 4, 1000: 4, impl.MaxNumber: 4, math.MaxInt: 4,
+		math.MinInt: 1, -1000: 1, -4: 1, -1: 1, 0: 1, 1: 1, 2: 2, 3: 3, 4: 4, 5: 4, 6: 4, 1000: 4, math.MaxInt: 4,
 	}
 	for n, size := range sizes {
 		e := impl.EpochsNew(n)
