@@ -34,13 +34,11 @@ func pairList(numbers ...int) []impl.Pair {
 	return list
 }
 
-// moduloByRule counts up or down in whole rounds; picks that far from 0 are not asked of it.
+// moduloByRule counts up or down in whole rounds, in many at once, as the greatest numbers have too many of them.
 func moduloByRule(n, round int) int {
-	for n < 0 {
+	n -= n / round * round
+	if n < 0 {
 		n += round
-	}
-	for n >= round {
-		n -= round
 	}
 	return n
 }
